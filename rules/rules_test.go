@@ -1,0 +1,208 @@
+// Package rules tests the general rules P1 to P4 of the document, across the packages that are built.
+package rules
+
+import (
+	"fmt"
+	"math"
+	"strings"
+	"sync"
+	"testing"
+	"unsafe"
+
+	"slopchest/api"
+	"slopchest/hash"
+)
+
+// call is one call with its arguments bound; it returns its results, the error last.
+type call struct {
+	name string
+	run  func() (results []any, err api.Errno)
+}
+
+// hashCalls are calls of package hash with ordinary, extreme and invalid arguments.
+func hashCalls() []call {
+	var calls []call
+	add := func(name string, run func() ([]any, api.Errno)) {
+		calls = append(calls, call{name, run})
+	}
+	numbers := []uint64{0, 1, 1<<32 - 1, 1 << 32, 1 << 63, math.MaxUint64}
+	for _, text := range []string{"", "a", "\xff\x00", strings.Repeat("k", 40), strings.Repeat("k", 41), strings.Repeat("\xff", 1<<20)} {
+		add(fmt.Sprintf("Sum of %d bytes", len(text)), func() ([]any, api.Errno) {
+			sum, err := hash.Sum(text)
+			return []any{sum}, err
+		})
+		for _, n := range numbers {
+			add(fmt.Sprintf("Salted of %d bytes, %d", len(text), n), func() ([]any, api.Errno) {
+				sum, err := hash.Salted(text, n)
+				return []any{sum}, err
+			})
+		}
+	}
+	for _, n := range numbers {
+		add(fmt.Sprintf("Mix and Unmix of %d", n), func() ([]any, api.Errno) {
+			return []any{hash.Mix(n), hash.Unmix(n)}, api.OK
+		})
+		for _, most := range []int{math.MinInt, -1, 0, 1, 10, api.MaxKey, api.MaxKey + 1, math.MaxInt} {
+			add(fmt.Sprintf("Reduce(%d, %d)", n, most), func() ([]any, api.Errno) {
+				k, err := hash.Reduce(n, most)
+				return []any{k}, err
+			})
+		}
+	}
+	return calls
+}
+
+// answer is the printed form of what a call returns.
+func (c call) answer() string {
+	results, err := c.run()
+	return fmt.Sprint(results, int(err))
+}
+
+// P1 and the numbers of the errors.
+
+func TestErrorsHaveTheNumbersOfTheDocument(t *testing.T) {
+	for want, err := range []api.Errno{api.OK, api.ErrForm, api.ErrMany, api.ErrRange, api.ErrState, api.ErrNone, api.ErrTwice, api.ErrKind, api.ErrFull} {
+		if int(err) != want {
+			t.Errorf("error %d has the number %d", want, err)
+		}
+	}
+}
+
+func TestNoCallPanics(t *testing.T) {
+	for _, c := range hashCalls() {
+		func() {
+			defer func() {
+				if r := recover(); r != nil {
+					t.Errorf("%s panics: %v", c.name, r)
+				}
+			}()
+			c.run()
+		}()
+	}
+}
+
+func TestErrorsComeWithZeroValues(t *testing.T) {
+	failed := 0
+	for _, c := range hashCalls() {
+		results, err := c.run()
+		if err == api.OK {
+			continue
+		}
+		failed++
+		for _, r := range results {
+			if fmt.Sprint(r) != "0" {
+				t.Errorf("%s returns %v with error %d", c.name, r, err)
+			}
+		}
+	}
+	if failed == 0 {
+		t.Error("no call failed: nothing was tested")
+	}
+}
+
+// P2: a text that lies in a buffer shows whether a call writes to it, or beyond it, or still reads it later.
+
+func TestArgumentsAreNeitherModifiedNorRetained(t *testing.T) {
+	buffer := []byte("first key, and what lies behind it")
+	before := string(buffer)
+	key := unsafe.String(&buffer[0], len("first key"))
+	sum, _ := hash.Sum(key)
+	salted, _ := hash.Salted(key, 1)
+	if string(buffer) != before {
+		t.Errorf("the buffer of the key is now %q", buffer)
+	}
+	copy(buffer, "other key")
+	for text, same := range map[string]bool{"first key": true, "other key": false} {
+		if again, _ := hash.Sum(text); (again == sum) != same {
+			t.Errorf("Sum(%q) = %d, of the first key %d", text, again, sum)
+		}
+		if again, _ := hash.Salted(text, 1); (again == salted) != same {
+			t.Errorf("Salted(%q, 1) = %d, of the first key %d", text, again, salted)
+		}
+	}
+}
+
+// P3: the answers are the same in any order, after any other calls, and at the same time.
+
+func TestAnswersDependOnlyOnArguments(t *testing.T) {
+	calls := hashCalls()
+	first := make([]string, len(calls))
+	for i, c := range calls {
+		first[i] = c.answer()
+	}
+	for i := len(calls) - 1; i >= 0; i-- {
+		if again := calls[i].answer(); again != first[i] {
+			t.Errorf("%s: first %s, then %s", calls[i].name, first[i], again)
+		}
+	}
+}
+
+func TestCallsAtTheSameTimeDoNotInterfere(t *testing.T) {
+	calls := hashCalls()
+	var group sync.WaitGroup
+	answers := make([][]string, 8)
+	for worker := range answers {
+		answers[worker] = make([]string, len(calls))
+		group.Add(1)
+		go func() {
+			defer group.Done()
+			for i := range calls {
+				at := (i + worker*len(calls)/len(answers)) % len(calls)
+				answers[worker][at] = calls[at].answer()
+			}
+		}()
+	}
+	group.Wait()
+	for i, c := range calls {
+		want := c.answer()
+		for worker := range answers {
+			if answers[worker][i] != want {
+				t.Errorf("%s: %s, at the same time %s", c.name, want, answers[worker][i])
+			}
+		}
+	}
+}
+
+// P4: a program may make very many calls, and the last ones answer as the first ones did.
+
+func TestManyCallsGiveTheSameAnswers(t *testing.T) {
+	key := strings.Repeat("k", api.MaxText)
+	firstSum, _ := hash.Sum(key)
+	firstMix := hash.Mix(firstSum)
+	n := firstSum
+	for range 1 << 20 {
+		hash.Sum(key)
+		n = hash.Mix(n)
+	}
+	for range 1 << 20 {
+		n = hash.Unmix(n)
+	}
+	if n != firstSum {
+		t.Errorf("2^20 times Mix and then Unmix of %d returns %d", firstSum, n)
+	}
+	if sum, err := hash.Sum(key); sum != firstSum || err != api.OK || hash.Mix(sum) != firstMix {
+		t.Errorf("after many calls Sum = %d, %d; want %d, OK", sum, err, firstSum)
+	}
+}
+
+func TestLimitsAreThoseOfTheDocument(t *testing.T) {
+	for _, c := range []struct {
+		name      string
+		got, want int
+	}{
+		{"MaxKey", api.MaxKey, 1 << 20}, {"MaxText", api.MaxText, 40}, {"MaxSlots", api.MaxSlots, 64},
+		{"MaxValue", api.MaxValue, 1 << 40}, {"MaxSize", api.MaxSize, 1024}, {"MaxHashes", api.MaxHashes, 8},
+		{"MaxRows", api.MaxRows, 6}, {"MaxWide", api.MaxWide, 64}, {"MaxCount", api.MaxCount, 1 << 40},
+		{"MaxTime", api.MaxTime, 1<<18 - 1}, {"MaxTimers", api.MaxTimers, 60}, {"Places", api.Places, 48},
+		{"MaxRoom", api.MaxRoom, 40}, {"MaxTrace", api.MaxTrace, 200}, {"MaxTokens", api.MaxTokens, 1 << 20},
+		{"MaxTick", api.MaxTick, 1 << 40}, {"MaxItems", api.MaxItems, 40}, {"MaxSizes", api.MaxSizes, 1 << 20},
+		{"MaxCost", api.MaxCost, 1 << 20}, {"MaxWorth", api.MaxWorth, 1 << 50}, {"MaxShards", api.MaxShards, 20},
+		{"MaxWeight", api.MaxWeight, 8}, {"MaxPoints", api.MaxPoints, 60}, {"MaxPlace", api.MaxPlace, 1 << 16},
+		{"MaxLife", api.MaxLife, 1 << 30}, {"MaxEntries", api.MaxEntries, 40}, {"MaxCalls", api.MaxCalls, 60},
+		{"MaxLetters", api.MaxLetters, 2000},
+	} {
+		if c.got != c.want {
+			t.Errorf("%s is %d, want %d", c.name, c.got, c.want)
+		}
+	}
+}
