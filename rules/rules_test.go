@@ -11,6 +11,7 @@ import (
 
 	"slopchest/api"
 	"slopchest/hash"
+	"slopchest/table"
 )
 
 // call is one call with its arguments bound; it returns its results, the error last.
@@ -52,6 +53,60 @@ func hashCalls() []call {
 	return calls
 }
 
+// tables are lists of slots, some of which package table refuses.
+func tables() [][]api.Slot {
+	full := make([]api.Slot, api.MaxSlots)
+	for i := range full {
+		full[i] = api.Slot{Used: true, Key: fmt.Sprint("k", i), Value: i}
+	}
+	one := []api.Slot{{Used: true, Key: "a", Value: 1}}
+	long := []api.Slot{{Used: true, Key: strings.Repeat("k", api.MaxText+1)}}
+	return [][]api.Slot{
+		nil, {}, make([]api.Slot, 1), make([]api.Slot, api.MaxSlots), make([]api.Slot, api.MaxSlots+1),
+		full, full[:40], one, long, {{Key: "a"}}, {{Value: 1}}, {one[0], one[0]}, {{}, one[0]}, {{}, {}, {}, one[0]},
+		{{Used: true, Key: "a", Value: math.MinInt}},
+	}
+}
+
+// tableCalls are calls of package table with ordinary, extreme and invalid arguments.
+func tableCalls() []call {
+	var calls []call
+	for i, list := range tables() {
+		add := func(name string, run func() ([]any, api.Errno)) {
+			calls = append(calls, call{fmt.Sprintf("table.%s of table %d", name, i), run})
+		}
+		add("Check", func() ([]any, api.Errno) { return nil, table.Check(list) })
+		for _, key := range []string{"", "a", "k7", "\xff\x00", strings.Repeat("k", 40), strings.Repeat("k", 41)} {
+			add(fmt.Sprintf("Get %q", key), func() ([]any, api.Errno) {
+				value, probes, err := table.Get(list, key)
+				return []any{value, probes}, err
+			})
+			for _, value := range []int{math.MinInt, -api.MaxValue, 0, api.MaxValue, api.MaxValue + 1, math.MaxInt} {
+				add(fmt.Sprintf("Put %q, %d", key, value), func() ([]any, api.Errno) {
+					got, err := table.Put(list, key, value)
+					return []any{got}, err
+				})
+			}
+			add(fmt.Sprintf("Delete %q", key), func() ([]any, api.Errno) {
+				got, err := table.Delete(list, key)
+				return []any{got}, err
+			})
+		}
+		for _, slots := range []int{math.MinInt, -1, 0, 1, 40, api.MaxSlots, api.MaxSlots + 1, math.MaxInt} {
+			add(fmt.Sprintf("Resize to %d", slots), func() ([]any, api.Errno) {
+				got, err := table.Resize(list, slots)
+				return []any{got}, err
+			})
+		}
+	}
+	return calls
+}
+
+// allCalls are calls of all packages that are built.
+func allCalls() []call {
+	return append(hashCalls(), tableCalls()...)
+}
+
 // answer is the printed form of what a call returns.
 func (c call) answer() string {
 	results, err := c.run()
@@ -69,7 +124,7 @@ func TestErrorsHaveTheNumbersOfTheDocument(t *testing.T) {
 }
 
 func TestNoCallPanics(t *testing.T) {
-	for _, c := range hashCalls() {
+	for _, c := range allCalls() {
 		func() {
 			defer func() {
 				if r := recover(); r != nil {
@@ -83,14 +138,14 @@ func TestNoCallPanics(t *testing.T) {
 
 func TestErrorsComeWithZeroValues(t *testing.T) {
 	failed := 0
-	for _, c := range hashCalls() {
+	for _, c := range allCalls() {
 		results, err := c.run()
 		if err == api.OK {
 			continue
 		}
 		failed++
 		for _, r := range results {
-			if fmt.Sprint(r) != "0" {
+			if printed := fmt.Sprint(r); printed != "0" && printed != "[]" {
 				t.Errorf("%s returns %v with error %d", c.name, r, err)
 			}
 		}
@@ -122,10 +177,46 @@ func TestArgumentsAreNeitherModifiedNorRetained(t *testing.T) {
 	}
 }
 
+// changeable returns a string whose bytes the test can change, and its bytes.
+func changeable(text string) (string, []byte) {
+	buffer := []byte(text)
+	return unsafe.String(&buffer[0], len(buffer)), buffer
+}
+
+func TestTablesShareNoMemoryWithArguments(t *testing.T) {
+	stored, storedBytes := changeable("stored key")
+	added, addedBytes := changeable("added key")
+	list, err := table.Put(make([]api.Slot, 5), "other key", 0)
+	if err != api.OK {
+		t.Fatalf("Put: error %d", err)
+	}
+	if list, err = table.Put(list, "stored key", 1); err != api.OK {
+		t.Fatalf("Put: error %d", err)
+	}
+	for i := range list {
+		if list[i].Key == stored {
+			list[i].Key = stored
+		}
+	}
+	put, _ := table.Put(list, added, 2)
+	deleted, _ := table.Delete(list, "other key")
+	resized, _ := table.Resize(list, 7)
+	results := [][]api.Slot{put, deleted, resized}
+	before := fmt.Sprint(results)
+	clear(storedBytes)
+	clear(addedBytes)
+	for i := range list {
+		list[i] = api.Slot{}
+	}
+	if after := fmt.Sprint(results); after != before {
+		t.Errorf("the results were %s, and are now %s", before, after)
+	}
+}
+
 // P3: the answers are the same in any order, after any other calls, and at the same time.
 
 func TestAnswersDependOnlyOnArguments(t *testing.T) {
-	calls := hashCalls()
+	calls := allCalls()
 	first := make([]string, len(calls))
 	for i, c := range calls {
 		first[i] = c.answer()
@@ -138,7 +229,7 @@ func TestAnswersDependOnlyOnArguments(t *testing.T) {
 }
 
 func TestCallsAtTheSameTimeDoNotInterfere(t *testing.T) {
-	calls := hashCalls()
+	calls := allCalls()
 	var group sync.WaitGroup
 	answers := make([][]string, 8)
 	for worker := range answers {
@@ -182,6 +273,21 @@ func TestManyCallsGiveTheSameAnswers(t *testing.T) {
 	}
 	if sum, err := hash.Sum(key); sum != firstSum || err != api.OK || hash.Mix(sum) != firstMix {
 		t.Errorf("after many calls Sum = %d, %d; want %d, OK", sum, err, firstSum)
+	}
+}
+
+func TestManyChangesOfATableGiveTheSameTable(t *testing.T) {
+	first := make([]api.Slot, 8)
+	for i, key := range []string{"a", "b", "c", "d", "e"} {
+		first, _ = table.Put(first, key, i)
+	}
+	list := first
+	for i := range 1 << 16 {
+		list, _ = table.Put(list, "f", i)
+		list, _ = table.Delete(list, "f")
+	}
+	if got, want := fmt.Sprint(list), fmt.Sprint(first); got != want {
+		t.Errorf("after many changes the table is %s, want %s", got, want)
 	}
 }
 
