@@ -4,12 +4,14 @@ package rules
 import (
 	"fmt"
 	"math"
+	"slices"
 	"strings"
 	"sync"
 	"testing"
 	"unsafe"
 
 	"slopchest/api"
+	"slopchest/bloom"
 	"slopchest/hash"
 	"slopchest/table"
 )
@@ -102,9 +104,61 @@ func tableCalls() []call {
 	return calls
 }
 
+// filters are filters, some of which package bloom refuses.
+func filters() []api.Filter {
+	all := make([]int, api.MaxSize)
+	for i := range all {
+		all[i] = i
+	}
+	return []api.Filter{
+		{}, {Size: 1, Hashes: 1}, {Size: 16, Hashes: 3, Set: []int{}}, {Size: 16, Hashes: 3, Set: []int{0, 4, 8}},
+		{Size: 16, Hashes: 2, Set: []int{15}}, {Size: 15, Hashes: 3, Set: all[:15]},
+		{Size: api.MaxSize, Hashes: api.MaxHashes, Set: all}, {Size: api.MaxSize + 1, Hashes: 1, Set: all},
+		{Size: 4, Hashes: api.MaxHashes + 1}, {Size: 4, Hashes: 1, Set: all}, {Size: 4, Hashes: 1, Set: []int{2, 1}},
+		{Size: 4, Hashes: 1, Set: []int{math.MinInt, math.MaxInt}}, {Size: math.MinInt, Hashes: math.MinInt},
+		{Size: math.MaxInt, Hashes: math.MaxInt, Set: all},
+	}
+}
+
+// bloomCalls are calls of package bloom with ordinary, extreme and invalid arguments.
+func bloomCalls() []call {
+	var calls []call
+	for i, f := range filters() {
+		add := func(name string, run func() ([]any, api.Errno)) {
+			calls = append(calls, call{fmt.Sprintf("bloom.%s of filter %d", name, i), run})
+		}
+		add("Check", func() ([]any, api.Errno) { return nil, bloom.Check(f) })
+		for _, text := range []string{"", "a", "\xff\x00", strings.Repeat("k", 40), strings.Repeat("k", 41)} {
+			add(fmt.Sprintf("Bits %q", text), func() ([]any, api.Errno) {
+				got, err := bloom.Bits(f, text)
+				return []any{got}, err
+			})
+			add(fmt.Sprintf("Add %q", text), func() ([]any, api.Errno) {
+				got, err := bloom.Add(f, text)
+				return []any{got}, err
+			})
+			add(fmt.Sprintf("MayContain %q", text), func() ([]any, api.Errno) {
+				got, err := bloom.MayContain(f, text)
+				return []any{got}, err
+			})
+		}
+		for j, other := range filters() {
+			add(fmt.Sprintf("Union with filter %d", j), func() ([]any, api.Errno) {
+				got, err := bloom.Union(f, other)
+				return []any{got}, err
+			})
+		}
+		add("Fold", func() ([]any, api.Errno) {
+			got, err := bloom.Fold(f)
+			return []any{got}, err
+		})
+	}
+	return calls
+}
+
 // allCalls are calls of all packages that are built.
 func allCalls() []call {
-	return append(hashCalls(), tableCalls()...)
+	return slices.Concat(hashCalls(), tableCalls(), bloomCalls())
 }
 
 // answer is the printed form of what a call returns.
@@ -145,7 +199,7 @@ func TestErrorsComeWithZeroValues(t *testing.T) {
 		}
 		failed++
 		for _, r := range results {
-			if printed := fmt.Sprint(r); printed != "0" && printed != "[]" {
+			if !slices.Contains([]string{"0", "[]", "false", "{0 0 []}"}, fmt.Sprint(r)) {
 				t.Errorf("%s returns %v with error %d", c.name, r, err)
 			}
 		}
@@ -208,6 +262,24 @@ func TestTablesShareNoMemoryWithArguments(t *testing.T) {
 	for i := range list {
 		list[i] = api.Slot{}
 	}
+	if after := fmt.Sprint(results); after != before {
+		t.Errorf("the results were %s, and are now %s", before, after)
+	}
+}
+
+func TestFiltersShareNoMemoryWithArguments(t *testing.T) {
+	text, textBytes := changeable("added key")
+	a := api.Filter{Size: 64, Hashes: 4, Set: []int{1, 6, 7}}
+	b := api.Filter{Size: 64, Hashes: 4, Set: []int{0, 6, 63}}
+	bits, _ := bloom.Bits(a, text)
+	added, _ := bloom.Add(a, text)
+	union, _ := bloom.Union(a, b)
+	folded, _ := bloom.Fold(a)
+	results := []any{bits, added, union, folded}
+	before := fmt.Sprint(results)
+	clear(textBytes)
+	clear(a.Set)
+	clear(b.Set)
 	if after := fmt.Sprint(results); after != before {
 		t.Errorf("the results were %s, and are now %s", before, after)
 	}
@@ -288,6 +360,22 @@ func TestManyChangesOfATableGiveTheSameTable(t *testing.T) {
 	}
 	if got, want := fmt.Sprint(list), fmt.Sprint(first); got != want {
 		t.Errorf("after many changes the table is %s, want %s", got, want)
+	}
+}
+
+func TestManyAdditionsToAFilterGiveTheSameFilter(t *testing.T) {
+	first := api.Filter{Size: 64, Hashes: 4}
+	texts := []string{"a", "b", "c", "d", "e"}
+	for _, text := range texts {
+		first, _ = bloom.Add(first, text)
+	}
+	f := first
+	for i := range 1 << 16 {
+		f, _ = bloom.Add(f, texts[i%len(texts)])
+		f, _ = bloom.Union(f, first)
+	}
+	if got, want := fmt.Sprint(f), fmt.Sprint(first); got != want {
+		t.Errorf("after many additions the filter is %s, want %s", got, want)
 	}
 }
 
