@@ -13,6 +13,7 @@ import (
 	"slopchest/api"
 	"slopchest/bloom"
 	"slopchest/hash"
+	"slopchest/sketch"
 	"slopchest/table"
 )
 
@@ -156,9 +157,64 @@ func bloomCalls() []call {
 	return calls
 }
 
+// sketches are sketches, some of which package sketch refuses.
+func sketches() []api.Sketch {
+	great := make([][]int, api.MaxRows)
+	for i := range great {
+		great[i] = slices.Repeat([]int{api.MaxCount}, api.MaxWide)
+	}
+	return []api.Sketch{
+		{}, {Wide: 1, Counts: [][]int{}}, {Wide: 1, Counts: [][]int{{0}}}, {Wide: 2, Counts: [][]int{{1, 2}, {3, 0}}},
+		{Wide: 2, Counts: [][]int{{4, 4}, {5, 3}}}, {Wide: 3, Counts: [][]int{{1, 2, 3}}},
+		{Wide: api.MaxWide, Counts: great}, {Wide: api.MaxWide + 1, Counts: great},
+		{Wide: api.MaxWide, Counts: append(great[:1:1], great...)}, {Wide: 2, Counts: [][]int{nil, {1, 2}}},
+		{Wide: 2, Counts: [][]int{{1, 2}, {1}}}, {Wide: 2, Counts: [][]int{{1, 2}, {2, 2}}},
+		{Wide: 2, Counts: [][]int{{math.MinInt, math.MaxInt}}}, {Wide: 2, Counts: [][]int{{math.MaxInt, math.MaxInt}}},
+		{Wide: math.MinInt, Counts: [][]int{nil}}, {Wide: math.MaxInt, Counts: great},
+	}
+}
+
+// sketchCalls are calls of package sketch with ordinary, extreme and invalid arguments.
+func sketchCalls() []call {
+	var calls []call
+	for i, s := range sketches() {
+		add := func(name string, run func() ([]any, api.Errno)) {
+			calls = append(calls, call{fmt.Sprintf("sketch.%s of sketch %d", name, i), run})
+		}
+		add("Check", func() ([]any, api.Errno) { return nil, sketch.Check(s) })
+		for _, key := range []string{"", "a", "\xff\x00", strings.Repeat("k", 40), strings.Repeat("k", 41)} {
+			add(fmt.Sprintf("Estimate %q", key), func() ([]any, api.Errno) {
+				got, err := sketch.Estimate(s, key)
+				return []any{got}, err
+			})
+			for _, many := range []int{math.MinInt, 0, 1, api.MaxCount, api.MaxCount + 1, math.MaxInt} {
+				add(fmt.Sprintf("Add %q, %d", key, many), func() ([]any, api.Errno) {
+					got, err := sketch.Add(s, key, many)
+					return []any{got}, err
+				})
+			}
+		}
+		for j, other := range sketches() {
+			add(fmt.Sprintf("Merge with sketch %d", j), func() ([]any, api.Errno) {
+				got, err := sketch.Merge(s, other)
+				return []any{got}, err
+			})
+		}
+		add("Halve", func() ([]any, api.Errno) {
+			got, err := sketch.Halve(s)
+			return []any{got}, err
+		})
+		add("Total", func() ([]any, api.Errno) {
+			got, err := sketch.Total(s)
+			return []any{got}, err
+		})
+	}
+	return calls
+}
+
 // allCalls are calls of all packages that are built.
 func allCalls() []call {
-	return slices.Concat(hashCalls(), tableCalls(), bloomCalls())
+	return slices.Concat(hashCalls(), tableCalls(), bloomCalls(), sketchCalls())
 }
 
 // answer is the printed form of what a call returns.
@@ -199,7 +255,7 @@ func TestErrorsComeWithZeroValues(t *testing.T) {
 		}
 		failed++
 		for _, r := range results {
-			if !slices.Contains([]string{"0", "[]", "false", "{0 0 []}"}, fmt.Sprint(r)) {
+			if !slices.Contains([]string{"0", "[]", "false", "{0 0 []}", "{0 []}"}, fmt.Sprint(r)) {
 				t.Errorf("%s returns %v with error %d", c.name, r, err)
 			}
 		}
@@ -280,6 +336,27 @@ func TestFiltersShareNoMemoryWithArguments(t *testing.T) {
 	clear(textBytes)
 	clear(a.Set)
 	clear(b.Set)
+	if after := fmt.Sprint(results); after != before {
+		t.Errorf("the results were %s, and are now %s", before, after)
+	}
+}
+
+func TestSketchesShareNoMemoryWithArguments(t *testing.T) {
+	key, keyBytes := changeable("added key")
+	a := api.Sketch{Wide: 3, Counts: [][]int{{4, 3, 0}, {5, 0, 2}}}
+	b := api.Sketch{Wide: 3, Counts: [][]int{{1, 0, 2}, {0, 0, 3}}}
+	added, _ := sketch.Add(a, key, 1)
+	merged, _ := sketch.Merge(a, b)
+	halved, _ := sketch.Halve(a)
+	results := []any{added, merged, halved}
+	before := fmt.Sprint(results)
+	clear(keyBytes)
+	for _, s := range []api.Sketch{a, b} {
+		for _, row := range s.Counts {
+			clear(row)
+		}
+		clear(s.Counts)
+	}
 	if after := fmt.Sprint(results); after != before {
 		t.Errorf("the results were %s, and are now %s", before, after)
 	}
@@ -376,6 +453,19 @@ func TestManyAdditionsToAFilterGiveTheSameFilter(t *testing.T) {
 	}
 	if got, want := fmt.Sprint(f), fmt.Sprint(first); got != want {
 		t.Errorf("after many additions the filter is %s, want %s", got, want)
+	}
+}
+
+func TestManyAdditionsToASketchAreAllCounted(t *testing.T) {
+	first := api.Sketch{Wide: 4, Counts: [][]int{make([]int, 4), make([]int, 4)}}
+	s := first
+	for range 1 << 16 {
+		s, _ = sketch.Add(s, "a", 1)
+		s, _ = sketch.Merge(s, first)
+	}
+	want, _ := sketch.Add(first, "a", 1<<16)
+	if got := fmt.Sprint(s); got != fmt.Sprint(want) {
+		t.Errorf("after many additions the sketch is %s, want %v", got, want)
 	}
 }
 
