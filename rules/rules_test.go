@@ -15,6 +15,7 @@ import (
 	"slopchest/hash"
 	"slopchest/sketch"
 	"slopchest/table"
+	"slopchest/wheel"
 )
 
 // call is one call with its arguments bound; it returns its results, the error last.
@@ -212,9 +213,72 @@ func sketchCalls() []call {
 	return calls
 }
 
+// inSlot is a wheel with timers in one slot only.
+func inSlot(now, slot int, list ...api.Timer) api.Wheel {
+	w := api.Wheel{Now: now, Slots: make([][]api.Timer, api.Places)}
+	w.Slots[slot] = list
+	return w
+}
+
+// wheels are wheels, some of which package wheel refuses.
+func wheels() []api.Wheel {
+	var full []api.Timer
+	for id := range api.MaxTimers + 1 {
+		full = append(full, api.Timer{Id: id, At: 8})
+	}
+	return []api.Wheel{
+		{}, {Slots: make([][]api.Timer, api.Places-1)}, {Slots: make([][]api.Timer, api.Places+1)},
+		{Slots: make([][]api.Timer, api.Places)}, {Now: api.MaxTime, Slots: make([][]api.Timer, api.Places)},
+		{Now: math.MinInt, Slots: make([][]api.Timer, api.Places)}, {Now: math.MaxInt, Slots: make([][]api.Timer, api.Places)},
+		inSlot(0, 9, full[:3]...), inSlot(5, 9, full[:api.MaxTimers]...), inSlot(0, 9, full...), inSlot(8, 9, full[:3]...), inSlot(0, 8, full[:3]...),
+		inSlot(0, 9, full[0], full[0]), inSlot(0, 9, full[1], full[0]), inSlot(0, 9, full[1], api.Timer{Id: 1, At: 9}),
+		inSlot(0, 47, api.Timer{Id: api.MaxKey, At: api.MaxTime}), inSlot(0, 47, api.Timer{Id: math.MaxInt, At: math.MaxInt}),
+		inSlot(0, 0, api.Timer{Id: math.MinInt, At: math.MinInt}), inSlot(0, 0, api.Timer{}),
+	}
+}
+
+// wheelCalls are calls of package wheel with ordinary, extreme and invalid arguments.
+func wheelCalls() []call {
+	var calls []call
+	numbers := []int{math.MinInt, -1, 0, 1, 2, 7, 8, 9, 70, api.MaxTime, api.MaxTime + 1, api.MaxKey + 1, math.MaxInt}
+	for _, now := range numbers {
+		calls = append(calls, call{fmt.Sprintf("wheel.New(%d)", now), func() ([]any, api.Errno) {
+			got, err := wheel.New(now)
+			return []any{got}, err
+		}})
+	}
+	for i, w := range wheels() {
+		add := func(name string, run func() ([]any, api.Errno)) {
+			calls = append(calls, call{fmt.Sprintf("wheel.%s of wheel %d", name, i), run})
+		}
+		add("Check", func() ([]any, api.Errno) { return nil, wheel.Check(w) })
+		for _, n := range numbers {
+			for _, at := range numbers {
+				add(fmt.Sprintf("Add %d, %d", n, at), func() ([]any, api.Errno) {
+					got, err := wheel.Add(w, api.Timer{Id: n, At: at})
+					return []any{got}, err
+				})
+			}
+			add(fmt.Sprintf("Cancel %d", n), func() ([]any, api.Errno) {
+				got, err := wheel.Cancel(w, n)
+				return []any{got}, err
+			})
+			add(fmt.Sprintf("Advance to %d", n), func() ([]any, api.Errno) {
+				got, expired, err := wheel.Advance(w, n)
+				return []any{got, expired}, err
+			})
+		}
+		add("Next", func() ([]any, api.Errno) {
+			got, err := wheel.Next(w)
+			return []any{got}, err
+		})
+	}
+	return calls
+}
+
 // allCalls are calls of all packages that are built.
 func allCalls() []call {
-	return slices.Concat(hashCalls(), tableCalls(), bloomCalls(), sketchCalls())
+	return slices.Concat(hashCalls(), tableCalls(), bloomCalls(), sketchCalls(), wheelCalls())
 }
 
 // answer is the printed form of what a call returns.
@@ -362,6 +426,21 @@ func TestSketchesShareNoMemoryWithArguments(t *testing.T) {
 	}
 }
 
+func TestWheelsShareNoMemoryWithArguments(t *testing.T) {
+	list := []api.Timer{{Id: 1, At: 8}, {Id: 2, At: 8}, {Id: 3, At: 9}}
+	w := inSlot(0, 9, list...)
+	added, _ := wheel.Add(w, api.Timer{Id: 4, At: 8})
+	canceled, _ := wheel.Cancel(w, 2)
+	advanced, expired, _ := wheel.Advance(w, 8)
+	results := []any{added, canceled, advanced, expired}
+	before := fmt.Sprint(results)
+	clear(list)
+	clear(w.Slots)
+	if after := fmt.Sprint(results); after != before {
+		t.Errorf("the results were %s, and are now %s", before, after)
+	}
+}
+
 // P3: the answers are the same in any order, after any other calls, and at the same time.
 
 func TestAnswersDependOnlyOnArguments(t *testing.T) {
@@ -466,6 +545,20 @@ func TestManyAdditionsToASketchAreAllCounted(t *testing.T) {
 	want, _ := sketch.Add(first, "a", 1<<16)
 	if got := fmt.Sprint(s); got != fmt.Sprint(want) {
 		t.Errorf("after many additions the sketch is %s, want %v", got, want)
+	}
+}
+
+func TestManyChangesOfAWheelGiveTheSameWheel(t *testing.T) {
+	first := inSlot(0, 47, api.Timer{Id: 1, At: api.MaxTime - 1}, api.Timer{Id: 2, At: api.MaxTime})
+	w := first
+	for i := range 1 << 15 {
+		w, _ = wheel.Add(w, api.Timer{Id: 3, At: i + 1})
+		w, _ = wheel.Cancel(w, 3)
+		w, _, _ = wheel.Advance(w, i)
+	}
+	want, _, _ := wheel.Advance(first, 1<<15-1)
+	if got := fmt.Sprint(w); got != fmt.Sprint(want) {
+		t.Errorf("after many changes the wheel is %s, want %v", got, want)
 	}
 }
 
