@@ -13,6 +13,7 @@ import (
 	"slopchest/api"
 	"slopchest/bloom"
 	"slopchest/hash"
+	"slopchest/lru"
 	"slopchest/sketch"
 	"slopchest/table"
 	"slopchest/wheel"
@@ -276,9 +277,63 @@ func wheelCalls() []call {
 	return calls
 }
 
+// caches are caches, some of which package lru refuses.
+func caches() []api.Cache {
+	full := make([]int, api.MaxRoom+1)
+	for i := range full {
+		full[i] = i
+	}
+	return []api.Cache{
+		{}, {Room: 1}, {Room: 1, Keys: []int{}}, {Room: 1, Keys: []int{0}}, {Room: 3, Keys: []int{1, 2, 0}}, {Room: 4, Keys: []int{1, 2, 0}},
+		{Room: api.MaxRoom}, {Room: api.MaxRoom, Keys: full[:api.MaxRoom]}, {Room: api.MaxRoom, Keys: full},
+		{Room: api.MaxRoom + 1, Keys: full}, {Room: 2, Keys: []int{api.MaxKey, 0}}, {Room: 2, Keys: []int{1, 1}},
+		{Room: 2, Keys: []int{math.MinInt, math.MaxInt}}, {Room: math.MinInt, Keys: full}, {Room: math.MaxInt, Keys: full},
+		{Room: math.MaxInt}, {Keys: []int{1}},
+	}
+}
+
+// traces are traces, some of which package lru refuses.
+func traces() [][]int {
+	return [][]int{
+		nil, {}, {1}, {1, 2, 1, 3, 0, 2}, {0, api.MaxKey}, {0, api.MaxKey + 1}, {-1}, {math.MinInt}, {1, math.MaxInt},
+		make([]int, api.MaxTrace), make([]int, api.MaxTrace+1), slices.Repeat([]int{-1}, api.MaxTrace+1), make([]int, 1<<16),
+	}
+}
+
+// lruCalls are calls of package lru with ordinary, extreme and invalid arguments.
+func lruCalls() []call {
+	var calls []call
+	for i, trace := range traces() {
+		calls = append(calls, call{fmt.Sprintf("lru.CheckTrace of trace %d", i), func() ([]any, api.Errno) { return nil, lru.CheckTrace(trace) }})
+	}
+	for i, c := range caches() {
+		add := func(name string, run func() ([]any, api.Errno)) {
+			calls = append(calls, call{fmt.Sprintf("lru.%s of cache %d", name, i), run})
+		}
+		add("Check", func() ([]any, api.Errno) { return nil, lru.Check(c) })
+		for _, n := range []int{math.MinInt, -1, 0, 1, 2, api.MaxRoom, api.MaxRoom + 1, api.MaxKey, api.MaxKey + 1, math.MaxInt} {
+			add(fmt.Sprintf("Access %d", n), func() ([]any, api.Errno) {
+				got, hit, evicted, err := lru.Access(c, n)
+				return []any{got, hit, evicted}, err
+			})
+			add(fmt.Sprintf("Resize to %d", n), func() ([]any, api.Errno) {
+				got, evicted, err := lru.Resize(c, n)
+				return []any{got, evicted}, err
+			})
+		}
+		for j, trace := range traces() {
+			add(fmt.Sprintf("Run with trace %d", j), func() ([]any, api.Errno) {
+				got, hits, err := lru.Run(c, trace)
+				return []any{got, hits}, err
+			})
+		}
+	}
+	return calls
+}
+
 // allCalls are calls of all packages that are built.
 func allCalls() []call {
-	return slices.Concat(hashCalls(), tableCalls(), bloomCalls(), sketchCalls(), wheelCalls())
+	return slices.Concat(hashCalls(), tableCalls(), bloomCalls(), sketchCalls(), wheelCalls(), lruCalls())
 }
 
 // answer is the printed form of what a call returns.
@@ -441,6 +496,22 @@ func TestWheelsShareNoMemoryWithArguments(t *testing.T) {
 	}
 }
 
+func TestCachesShareNoMemoryWithArguments(t *testing.T) {
+	c := api.Cache{Room: 3, Keys: []int{1, 2, 3}}
+	trace := []int{3, 4, 1}
+	accessed, _, _, _ := lru.Access(c, 2)
+	same, _, _ := lru.Run(c, nil)
+	run, _, _ := lru.Run(c, trace)
+	resized, evicted, _ := lru.Resize(c, 2)
+	results := []any{accessed, same, run, resized, evicted}
+	before := fmt.Sprint(results)
+	clear(c.Keys)
+	clear(trace)
+	if after := fmt.Sprint(results); after != before {
+		t.Errorf("the results were %s, and are now %s", before, after)
+	}
+}
+
 // P3: the answers are the same in any order, after any other calls, and at the same time.
 
 func TestAnswersDependOnlyOnArguments(t *testing.T) {
@@ -559,6 +630,20 @@ func TestManyChangesOfAWheelGiveTheSameWheel(t *testing.T) {
 	want, _, _ := wheel.Advance(first, 1<<15-1)
 	if got := fmt.Sprint(w); got != fmt.Sprint(want) {
 		t.Errorf("after many changes the wheel is %s, want %v", got, want)
+	}
+}
+
+func TestManyChangesOfACacheGiveTheSameCache(t *testing.T) {
+	first := api.Cache{Room: 4, Keys: []int{1, 2, 3, 4}}
+	c := first
+	for range 1 << 15 {
+		c, _, _, _ = lru.Access(c, 5)
+		c, _, _ = lru.Resize(c, 5)
+		c, _, _ = lru.Run(c, []int{4, 3, 2, 1})
+		c, _, _ = lru.Resize(c, 4)
+	}
+	if got, want := fmt.Sprint(c), fmt.Sprint(first); got != want {
+		t.Errorf("after many changes the cache is %s, want %s", got, want)
 	}
 }
 
