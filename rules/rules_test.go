@@ -12,6 +12,7 @@ import (
 
 	"slopchest/api"
 	"slopchest/bloom"
+	"slopchest/clock"
 	"slopchest/hash"
 	"slopchest/lru"
 	"slopchest/sketch"
@@ -331,9 +332,54 @@ func lruCalls() []call {
 	return calls
 }
 
+// clocks are clocks, some of which package clock refuses.
+func clocks() []api.Clock {
+	full := make([]api.Frame, api.MaxRoom+1)
+	for i := range full {
+		full[i] = api.Frame{Key: i, Used: true}
+	}
+	three := []api.Frame{{Key: 1}, {Key: 2, Used: true}, {Key: 0}}
+	return []api.Clock{
+		{}, {Room: 1}, {Room: 1, Frames: []api.Frame{}}, {Room: 1, Hand: 1}, {Room: 1, Frames: full[:1]}, {Room: 3, Hand: 1, Frames: three},
+		{Room: 4, Hand: 2, Frames: three}, {Room: 4, Hand: 3, Frames: three}, {Room: 4, Hand: -1, Frames: three}, {Room: 2, Frames: three},
+		{Room: api.MaxRoom}, {Room: api.MaxRoom, Hand: api.MaxRoom - 1, Frames: full[:api.MaxRoom]}, {Room: api.MaxRoom, Frames: full},
+		{Room: api.MaxRoom + 1, Frames: full}, {Room: 2, Frames: []api.Frame{{Key: 1}, {Key: 1, Used: true}}},
+		{Room: 2, Frames: []api.Frame{{Key: math.MinInt}, {Key: math.MaxInt}}}, {Room: 3, Hand: math.MinInt, Frames: three},
+		{Room: 3, Hand: math.MaxInt, Frames: three}, {Room: math.MinInt, Frames: full}, {Room: math.MaxInt, Hand: math.MaxInt, Frames: full},
+	}
+}
+
+// clockCalls are calls of package clock with ordinary, extreme and invalid arguments.
+func clockCalls() []call {
+	var calls []call
+	for i, c := range clocks() {
+		add := func(name string, run func() ([]any, api.Errno)) {
+			calls = append(calls, call{fmt.Sprintf("clock.%s of clock %d", name, i), run})
+		}
+		add("Check", func() ([]any, api.Errno) { return nil, clock.Check(c) })
+		for _, key := range []int{math.MinInt, -1, 0, 1, 2, api.MaxRoom, api.MaxKey, api.MaxKey + 1, math.MaxInt} {
+			add(fmt.Sprintf("Access %d", key), func() ([]any, api.Errno) {
+				got, hit, evicted, err := clock.Access(c, key)
+				return []any{got, hit, evicted}, err
+			})
+		}
+		for j, trace := range traces() {
+			add(fmt.Sprintf("Run with trace %d", j), func() ([]any, api.Errno) {
+				got, hits, err := clock.Run(c, trace)
+				return []any{got, hits}, err
+			})
+		}
+		add("Clear", func() ([]any, api.Errno) {
+			got, err := clock.Clear(c)
+			return []any{got}, err
+		})
+	}
+	return calls
+}
+
 // allCalls are calls of all packages that are built.
 func allCalls() []call {
-	return slices.Concat(hashCalls(), tableCalls(), bloomCalls(), sketchCalls(), wheelCalls(), lruCalls())
+	return slices.Concat(hashCalls(), tableCalls(), bloomCalls(), sketchCalls(), wheelCalls(), lruCalls(), clockCalls())
 }
 
 // answer is the printed form of what a call returns.
@@ -512,6 +558,23 @@ func TestCachesShareNoMemoryWithArguments(t *testing.T) {
 	}
 }
 
+func TestClocksShareNoMemoryWithArguments(t *testing.T) {
+	c := api.Clock{Room: 3, Hand: 1, Frames: []api.Frame{{Key: 1}, {Key: 2, Used: true}, {Key: 3}}}
+	trace := []int{3, 4, 1}
+	accessed, _, _, _ := clock.Access(c, 2)
+	replaced, _, _, _ := clock.Access(c, 5)
+	same, _, _ := clock.Run(c, nil)
+	run, _, _ := clock.Run(c, trace)
+	cleared, _ := clock.Clear(c)
+	results := []any{accessed, replaced, same, run, cleared}
+	before := fmt.Sprint(results)
+	clear(c.Frames)
+	clear(trace)
+	if after := fmt.Sprint(results); after != before {
+		t.Errorf("the results were %s, and are now %s", before, after)
+	}
+}
+
 // P3: the answers are the same in any order, after any other calls, and at the same time.
 
 func TestAnswersDependOnlyOnArguments(t *testing.T) {
@@ -644,6 +707,20 @@ func TestManyChangesOfACacheGiveTheSameCache(t *testing.T) {
 	}
 	if got, want := fmt.Sprint(c), fmt.Sprint(first); got != want {
 		t.Errorf("after many changes the cache is %s, want %s", got, want)
+	}
+}
+
+func TestManyChangesOfAClockGiveTheSameClock(t *testing.T) {
+	first := api.Clock{Room: 2, Frames: []api.Frame{{Key: 1}, {Key: 2}}}
+	c := first
+	for range 1 << 15 {
+		c, _, _, _ = clock.Access(c, 3)
+		c, _, _ = clock.Run(c, []int{2, 1, 2})
+		c, _ = clock.Clear(c)
+		c, _, _ = clock.Run(c, []int{4, 1, 2})
+	}
+	if got, want := fmt.Sprint(c), fmt.Sprint(first); got != want {
+		t.Errorf("after many changes the clock is %s, want %s", got, want)
 	}
 }
 
