@@ -14,6 +14,7 @@ import (
 	"slopchest/bloom"
 	"slopchest/clock"
 	"slopchest/hash"
+	"slopchest/lfu"
 	"slopchest/lru"
 	"slopchest/sketch"
 	"slopchest/table"
@@ -377,9 +378,58 @@ func clockCalls() []call {
 	return calls
 }
 
+// counted are caches with access counts, some of which package lfu refuses.
+func counted() []api.Uses {
+	full := make([]api.Use, api.MaxRoom+1)
+	for i := range full {
+		full[i] = api.Use{Key: i, Count: api.MaxCount}
+	}
+	three := []api.Use{{Key: 1, Count: 2}, {Key: 2, Count: 1}, {Key: 0, Count: 1}}
+	return []api.Uses{
+		{}, {Room: 1}, {Room: 1, List: []api.Use{}}, {Room: 1, List: full[:1]}, {Room: 3, List: three}, {Room: 4, List: three}, {Room: 2, List: three},
+		{Room: api.MaxRoom}, {Room: api.MaxRoom, List: full[:api.MaxRoom]}, {Room: api.MaxRoom, List: full}, {Room: api.MaxRoom + 1, List: full},
+		{Room: 2, List: []api.Use{{Key: 1, Count: 1}, {Key: 1, Count: 2}}}, {Room: 2, List: make([]api.Use, 1)}, {Room: 2, List: make([]api.Use, 2)},
+		{Room: 2, List: []api.Use{{Key: math.MinInt, Count: 1}, {Key: math.MaxInt, Count: 1}}},
+		{Room: 2, List: []api.Use{{Key: 1, Count: math.MinInt}}}, {Room: 2, List: []api.Use{{Key: 1, Count: math.MaxInt}}},
+		{Room: 2, List: []api.Use{{Key: 1, Count: api.MaxCount + 1}}}, {Room: math.MinInt, List: full}, {Room: math.MaxInt, List: full},
+	}
+}
+
+// lfuCalls are calls of package lfu with ordinary, extreme and invalid arguments.
+func lfuCalls() []call {
+	var calls []call
+	for i, u := range counted() {
+		add := func(name string, run func() ([]any, api.Errno)) {
+			calls = append(calls, call{fmt.Sprintf("lfu.%s of cache %d", name, i), run})
+		}
+		add("Check", func() ([]any, api.Errno) { return nil, lfu.Check(u) })
+		for _, key := range []int{math.MinInt, -1, 0, 1, 2, api.MaxRoom, api.MaxKey, api.MaxKey + 1, math.MaxInt} {
+			add(fmt.Sprintf("Access %d", key), func() ([]any, api.Errno) {
+				got, hit, evicted, err := lfu.Access(u, key)
+				return []any{got, hit, evicted}, err
+			})
+		}
+		for j, trace := range traces() {
+			add(fmt.Sprintf("Run with trace %d", j), func() ([]any, api.Errno) {
+				got, hits, err := lfu.Run(u, trace)
+				return []any{got, hits}, err
+			})
+		}
+		add("Age", func() ([]any, api.Errno) {
+			got, err := lfu.Age(u)
+			return []any{got}, err
+		})
+		add("Victim", func() ([]any, api.Errno) {
+			got, err := lfu.Victim(u)
+			return []any{got}, err
+		})
+	}
+	return calls
+}
+
 // allCalls are calls of all packages that are built.
 func allCalls() []call {
-	return slices.Concat(hashCalls(), tableCalls(), bloomCalls(), sketchCalls(), wheelCalls(), lruCalls(), clockCalls())
+	return slices.Concat(hashCalls(), tableCalls(), bloomCalls(), sketchCalls(), wheelCalls(), lruCalls(), clockCalls(), lfuCalls())
 }
 
 // answer is the printed form of what a call returns.
@@ -575,6 +625,23 @@ func TestClocksShareNoMemoryWithArguments(t *testing.T) {
 	}
 }
 
+func TestCountedCachesShareNoMemoryWithArguments(t *testing.T) {
+	u := api.Uses{Room: 3, List: []api.Use{{Key: 1, Count: 4}, {Key: 2, Count: 1}, {Key: 3, Count: 2}}}
+	trace := []int{3, 4, 1}
+	accessed, _, _, _ := lfu.Access(u, 2)
+	replaced, _, _, _ := lfu.Access(u, 5)
+	same, _, _ := lfu.Run(u, nil)
+	run, _, _ := lfu.Run(u, trace)
+	aged, _ := lfu.Age(u)
+	results := []any{accessed, replaced, same, run, aged}
+	before := fmt.Sprint(results)
+	clear(u.List)
+	clear(trace)
+	if after := fmt.Sprint(results); after != before {
+		t.Errorf("the results were %s, and are now %s", before, after)
+	}
+}
+
 // P3: the answers are the same in any order, after any other calls, and at the same time.
 
 func TestAnswersDependOnlyOnArguments(t *testing.T) {
@@ -721,6 +788,21 @@ func TestManyChangesOfAClockGiveTheSameClock(t *testing.T) {
 	}
 	if got, want := fmt.Sprint(c), fmt.Sprint(first); got != want {
 		t.Errorf("after many changes the clock is %s, want %s", got, want)
+	}
+}
+
+func TestManyChangesOfACountedCacheGiveTheSameCache(t *testing.T) {
+	first := api.Uses{Room: 2, List: []api.Use{{Key: 1, Count: 1}, {Key: 2, Count: 1}}}
+	u := first
+	for range 1 << 15 {
+		u, _, _, _ = lfu.Access(u, 3)
+		u, _, _ = lfu.Run(u, []int{2, 1, 2, 1})
+		u, _ = lfu.Age(u)
+		u, _, _ = lfu.Run(u, []int{4, 2, 1})
+		u, _ = lfu.Age(u)
+	}
+	if got, want := fmt.Sprint(u), fmt.Sprint(first); got != want {
+		t.Errorf("after many changes the cache is %s, want %s", got, want)
 	}
 }
 
