@@ -16,6 +16,7 @@ import (
 	"slopchest/hash"
 	"slopchest/lfu"
 	"slopchest/lru"
+	"slopchest/segment"
 	"slopchest/sketch"
 	"slopchest/table"
 	"slopchest/wheel"
@@ -427,9 +428,58 @@ func lfuCalls() []call {
 	return calls
 }
 
+// segmented are segmented caches, some of which package segment refuses.
+func segmented() []api.Segments {
+	all := make([]int, 2*api.MaxRoom+1)
+	for i := range all {
+		all[i] = i
+	}
+	first, second, many := all[:api.MaxRoom], all[api.MaxRoom:2*api.MaxRoom], all[api.MaxRoom:]
+	return []api.Segments{
+		{}, {First: 1, Second: 1}, {First: 1, Second: 1, New: []int{}, Old: []int{}}, {First: 1}, {Second: 1},
+		{First: 1, Second: 1, New: []int{0}, Old: []int{1}}, {First: 3, Second: 2, New: []int{1, 2, 0}, Old: []int{40, 41}},
+		{First: 4, Second: 3, New: []int{1, 2, 0}, Old: []int{40, 41}}, {First: 1, Second: 1, Old: []int{api.MaxKey}},
+		{First: api.MaxRoom, Second: api.MaxRoom}, {First: api.MaxRoom, Second: api.MaxRoom, New: first, Old: second},
+		{First: api.MaxRoom, Second: api.MaxRoom, New: first, Old: many}, {First: api.MaxRoom, Second: api.MaxRoom, New: many, Old: first},
+		{First: api.MaxRoom + 1, Second: 1}, {First: 1, Second: api.MaxRoom + 1}, {First: 2, Second: 1, New: []int{1, 1}},
+		{First: 1, Second: 2, Old: []int{1, 1}}, {First: 1, Second: 1, New: []int{1}, Old: []int{1}},
+		{First: 2, Second: 1, New: []int{math.MinInt, math.MaxInt}}, {First: 1, Second: 2, New: []int{1}, Old: []int{math.MaxInt, 1}},
+		{First: math.MinInt, Second: 1, New: all}, {First: 1, Second: math.MinInt, Old: all},
+		{First: math.MaxInt, Second: math.MaxInt, New: all, Old: all},
+	}
+}
+
+// segmentCalls are calls of package segment with ordinary, extreme and invalid arguments.
+func segmentCalls() []call {
+	var calls []call
+	for i, h := range segmented() {
+		add := func(name string, run func() ([]any, api.Errno)) {
+			calls = append(calls, call{fmt.Sprintf("segment.%s of cache %d", name, i), run})
+		}
+		add("Check", func() ([]any, api.Errno) { return nil, segment.Check(h) })
+		for _, key := range []int{math.MinInt, -1, 0, 1, 2, api.MaxRoom, api.MaxKey, api.MaxKey + 1, math.MaxInt} {
+			add(fmt.Sprintf("Access %d", key), func() ([]any, api.Errno) {
+				got, hit, evicted, err := segment.Access(h, key)
+				return []any{got, hit, evicted}, err
+			})
+		}
+		for j, trace := range traces() {
+			add(fmt.Sprintf("Run with trace %d", j), func() ([]any, api.Errno) {
+				got, hits, err := segment.Run(h, trace)
+				return []any{got, hits}, err
+			})
+		}
+		add("Keys", func() ([]any, api.Errno) {
+			got, err := segment.Keys(h)
+			return []any{got}, err
+		})
+	}
+	return calls
+}
+
 // allCalls are calls of all packages that are built.
 func allCalls() []call {
-	return slices.Concat(hashCalls(), tableCalls(), bloomCalls(), sketchCalls(), wheelCalls(), lruCalls(), clockCalls(), lfuCalls())
+	return slices.Concat(hashCalls(), tableCalls(), bloomCalls(), sketchCalls(), wheelCalls(), lruCalls(), clockCalls(), lfuCalls(), segmentCalls())
 }
 
 // answer is the printed form of what a call returns.
@@ -470,7 +520,7 @@ func TestErrorsComeWithZeroValues(t *testing.T) {
 		}
 		failed++
 		for _, r := range results {
-			if !slices.Contains([]string{"0", "[]", "false", "{0 0 []}", "{0 []}"}, fmt.Sprint(r)) {
+			if !slices.Contains([]string{"0", "[]", "false", "{0 0 []}", "{0 []}", "{0 0 [] []}"}, fmt.Sprint(r)) {
 				t.Errorf("%s returns %v with error %d", c.name, r, err)
 			}
 		}
@@ -642,6 +692,25 @@ func TestCountedCachesShareNoMemoryWithArguments(t *testing.T) {
 	}
 }
 
+func TestSegmentedCachesShareNoMemoryWithArguments(t *testing.T) {
+	h := api.Segments{First: 3, Second: 2, New: []int{1, 2, 3}, Old: []int{4, 5}}
+	trace := []int{3, 6, 1}
+	again, _, _, _ := segment.Access(h, 5)
+	promoted, _, promotedGone, _ := segment.Access(h, 2)
+	inserted, _, insertedGone, _ := segment.Access(h, 6)
+	same, _, _ := segment.Run(h, nil)
+	run, _, _ := segment.Run(h, trace)
+	keys, _ := segment.Keys(h)
+	results := []any{again, promoted, promotedGone, inserted, insertedGone, same, run, keys}
+	before := fmt.Sprint(results)
+	clear(h.New)
+	clear(h.Old)
+	clear(trace)
+	if after := fmt.Sprint(results); after != before {
+		t.Errorf("the results were %s, and are now %s", before, after)
+	}
+}
+
 // P3: the answers are the same in any order, after any other calls, and at the same time.
 
 func TestAnswersDependOnlyOnArguments(t *testing.T) {
@@ -802,6 +871,20 @@ func TestManyChangesOfACountedCacheGiveTheSameCache(t *testing.T) {
 		u, _ = lfu.Age(u)
 	}
 	if got, want := fmt.Sprint(u), fmt.Sprint(first); got != want {
+		t.Errorf("after many changes the cache is %s, want %s", got, want)
+	}
+}
+
+func TestManyChangesOfASegmentedCacheGiveTheSameCache(t *testing.T) {
+	first := api.Segments{First: 2, Second: 2, New: []int{1, 2}, Old: []int{3, 4}}
+	h := first
+	for range 1 << 15 {
+		h, _, _, _ = segment.Access(h, 2)
+		h, _, _ = segment.Run(h, []int{5, 1, 5})
+		h, _, _, _ = segment.Access(h, 4)
+		h, _, _ = segment.Run(h, []int{4, 3, 3, 2, 1})
+	}
+	if got, want := fmt.Sprint(h), fmt.Sprint(first); got != want {
 		t.Errorf("after many changes the cache is %s, want %s", got, want)
 	}
 }
