@@ -16,6 +16,7 @@ import (
 	"slopchest/hash"
 	"slopchest/lfu"
 	"slopchest/lru"
+	"slopchest/optimal"
 	"slopchest/segment"
 	"slopchest/sketch"
 	"slopchest/table"
@@ -477,9 +478,39 @@ func segmentCalls() []call {
 	return calls
 }
 
+// optimalCalls are calls of package optimal with ordinary, extreme and invalid arguments.
+func optimalCalls() []call {
+	var calls []call
+	numbers := []int{math.MinInt, -1, 0, 1, 2, api.MaxRoom, api.MaxRoom + 1, api.MaxTrace - 1, api.MaxTrace, api.MaxTrace + 1, math.MaxInt}
+	for i, trace := range traces() {
+		for _, n := range numbers {
+			calls = append(calls,
+				call{fmt.Sprintf("optimal.Evictions of trace %d, room %d", i, n), func() ([]any, api.Errno) {
+					evicted, misses, err := optimal.Evictions(trace, n)
+					return []any{evicted, misses}, err
+				}},
+				call{fmt.Sprintf("optimal.Next of trace %d, %d", i, n), func() ([]any, api.Errno) {
+					got, err := optimal.Next(trace, n)
+					return []any{got}, err
+				}})
+		}
+	}
+	for _, misses := range numbers {
+		for _, room := range numbers {
+			for _, least := range numbers {
+				calls = append(calls, call{fmt.Sprintf("optimal.Bound(%d, %d, %d)", misses, room, least), func() ([]any, api.Errno) {
+					got, err := optimal.Bound(misses, room, least)
+					return []any{got}, err
+				}})
+			}
+		}
+	}
+	return calls
+}
+
 // allCalls are calls of all packages that are built.
 func allCalls() []call {
-	return slices.Concat(hashCalls(), tableCalls(), bloomCalls(), sketchCalls(), wheelCalls(), lruCalls(), clockCalls(), lfuCalls(), segmentCalls())
+	return slices.Concat(hashCalls(), tableCalls(), bloomCalls(), sketchCalls(), wheelCalls(), lruCalls(), clockCalls(), lfuCalls(), segmentCalls(), optimalCalls())
 }
 
 // answer is the printed form of what a call returns.
@@ -711,6 +742,18 @@ func TestSegmentedCachesShareNoMemoryWithArguments(t *testing.T) {
 	}
 }
 
+func TestEvictedKeysShareNoMemoryWithTheTrace(t *testing.T) {
+	trace := []int{1, 2, 3, 1, 4}
+	evicted, _, _ := optimal.Evictions(trace, 2)
+	whole, _, _ := optimal.Evictions(trace, 5)
+	results := [][]int{evicted, whole}
+	before := fmt.Sprint(results)
+	clear(trace)
+	if after := fmt.Sprint(results); after != before {
+		t.Errorf("the results were %s, and are now %s", before, after)
+	}
+}
+
 // P3: the answers are the same in any order, after any other calls, and at the same time.
 
 func TestAnswersDependOnlyOnArguments(t *testing.T) {
@@ -886,6 +929,17 @@ func TestManyChangesOfASegmentedCacheGiveTheSameCache(t *testing.T) {
 	}
 	if got, want := fmt.Sprint(h), fmt.Sprint(first); got != want {
 		t.Errorf("after many changes the cache is %s, want %s", got, want)
+	}
+}
+
+func TestManyRunsOfATraceEvictTheSameKeys(t *testing.T) {
+	trace := []int{1, 2, 3, 1, 4, 2}
+	first, firstMisses, _ := optimal.Evictions(trace, 2)
+	for range 1 << 16 {
+		optimal.Evictions(trace, 3)
+		if got, misses, err := optimal.Evictions(trace, 2); !slices.Equal(got, first) || misses != firstMisses || err != api.OK {
+			t.Fatalf("after many runs Evictions = %v, %d, %d; want %v, %d, OK", got, misses, err, first, firstMisses)
+		}
 	}
 }
 
