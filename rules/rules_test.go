@@ -13,6 +13,7 @@ import (
 	"slopchest/api"
 	"slopchest/bloom"
 	"slopchest/clock"
+	"slopchest/distance"
 	"slopchest/hash"
 	"slopchest/lfu"
 	"slopchest/lru"
@@ -508,9 +509,38 @@ func optimalCalls() []call {
 	return calls
 }
 
+// distanceCalls are calls of package distance with ordinary, extreme and invalid arguments.
+func distanceCalls() []call {
+	var calls []call
+	for i, trace := range traces() {
+		add := func(name string, run func() ([]any, api.Errno)) {
+			calls = append(calls, call{fmt.Sprintf("distance.%s of trace %d", name, i), run})
+		}
+		add("Distances", func() ([]any, api.Errno) {
+			got, err := distance.Distances(trace)
+			return []any{got}, err
+		})
+		add("Hits", func() ([]any, api.Errno) {
+			got, err := distance.Hits(trace)
+			return []any{got}, err
+		})
+		add("Misses", func() ([]any, api.Errno) {
+			got, err := distance.Misses(trace)
+			return []any{got}, err
+		})
+		for _, percent := range []int{math.MinInt, -1, 0, 1, 50, 99, 100, 101, math.MaxInt} {
+			add(fmt.Sprintf("Room for %d percent", percent), func() ([]any, api.Errno) {
+				got, err := distance.Room(trace, percent)
+				return []any{got}, err
+			})
+		}
+	}
+	return calls
+}
+
 // allCalls are calls of all packages that are built.
 func allCalls() []call {
-	return slices.Concat(hashCalls(), tableCalls(), bloomCalls(), sketchCalls(), wheelCalls(), lruCalls(), clockCalls(), lfuCalls(), segmentCalls(), optimalCalls())
+	return slices.Concat(hashCalls(), tableCalls(), bloomCalls(), sketchCalls(), wheelCalls(), lruCalls(), clockCalls(), lfuCalls(), segmentCalls(), optimalCalls(), distanceCalls())
 }
 
 // answer is the printed form of what a call returns.
@@ -754,6 +784,19 @@ func TestEvictedKeysShareNoMemoryWithTheTrace(t *testing.T) {
 	}
 }
 
+func TestDistancesShareNoMemoryWithTheTrace(t *testing.T) {
+	trace := []int{1, 2, 3, 1, 1}
+	distances, _ := distance.Distances(trace)
+	hits, _ := distance.Hits(trace)
+	misses, _ := distance.Misses(trace)
+	results := [][]int{distances, hits, misses}
+	before := fmt.Sprint(results)
+	clear(trace)
+	if after := fmt.Sprint(results); after != before {
+		t.Errorf("the results were %s, and are now %s", before, after)
+	}
+}
+
 // P3: the answers are the same in any order, after any other calls, and at the same time.
 
 func TestAnswersDependOnlyOnArguments(t *testing.T) {
@@ -939,6 +982,17 @@ func TestManyRunsOfATraceEvictTheSameKeys(t *testing.T) {
 		optimal.Evictions(trace, 3)
 		if got, misses, err := optimal.Evictions(trace, 2); !slices.Equal(got, first) || misses != firstMisses || err != api.OK {
 			t.Fatalf("after many runs Evictions = %v, %d, %d; want %v, %d, OK", got, misses, err, first, firstMisses)
+		}
+	}
+}
+
+func TestManyCountsOfATraceGiveTheSameHits(t *testing.T) {
+	trace := []int{1, 2, 3, 1, 4, 2}
+	first, _ := distance.Hits(trace)
+	for range 1 << 16 {
+		distance.Misses(trace)
+		if got, err := distance.Hits(trace); !slices.Equal(got, first) || err != api.OK {
+			t.Fatalf("after many counts Hits = %v, %d; want %v, OK", got, err, first)
 		}
 	}
 }
