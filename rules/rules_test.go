@@ -22,6 +22,7 @@ import (
 	"slopchest/sketch"
 	"slopchest/table"
 	"slopchest/wheel"
+	"slopchest/workset"
 )
 
 // call is one call with its arguments bound; it returns its results, the error last.
@@ -538,9 +539,41 @@ func distanceCalls() []call {
 	return calls
 }
 
+// worksetCalls are calls of package workset with ordinary, extreme and invalid arguments.
+func worksetCalls() []call {
+	var calls []call
+	numbers := []int{math.MinInt, -1, 0, 1, 2, api.MaxTrace - 1, api.MaxTrace, api.MaxTrace + 1, math.MaxInt}
+	for i, trace := range traces() {
+		for _, window := range numbers {
+			add := func(name string, run func() ([]any, api.Errno)) {
+				calls = append(calls, call{fmt.Sprintf("workset.%s of trace %d, window %d", name, i, window), run})
+			}
+			add("Sizes", func() ([]any, api.Errno) {
+				got, err := workset.Sizes(trace, window)
+				return []any{got}, err
+			})
+			add("Faults", func() ([]any, api.Errno) {
+				got, err := workset.Faults(trace, window)
+				return []any{got}, err
+			})
+			for _, n := range numbers {
+				add(fmt.Sprintf("Set at %d", n), func() ([]any, api.Errno) {
+					got, err := workset.Set(trace, n, window)
+					return []any{got}, err
+				})
+				add(fmt.Sprintf("Phases with least %d", n), func() ([]any, api.Errno) {
+					got, err := workset.Phases(trace, window, n)
+					return []any{got}, err
+				})
+			}
+		}
+	}
+	return calls
+}
+
 // allCalls are calls of all packages that are built.
 func allCalls() []call {
-	return slices.Concat(hashCalls(), tableCalls(), bloomCalls(), sketchCalls(), wheelCalls(), lruCalls(), clockCalls(), lfuCalls(), segmentCalls(), optimalCalls(), distanceCalls())
+	return slices.Concat(hashCalls(), tableCalls(), bloomCalls(), sketchCalls(), wheelCalls(), lruCalls(), clockCalls(), lfuCalls(), segmentCalls(), optimalCalls(), distanceCalls(), worksetCalls())
 }
 
 // answer is the printed form of what a call returns.
@@ -797,6 +830,20 @@ func TestDistancesShareNoMemoryWithTheTrace(t *testing.T) {
 	}
 }
 
+func TestWorkingSetsShareNoMemoryWithTheTrace(t *testing.T) {
+	trace := []int{1, 2, 3, 1, 1}
+	whole, _ := workset.Set(trace, 2, 3)
+	part, _ := workset.Set(trace, 4, 3)
+	sizes, _ := workset.Sizes(trace, 2)
+	phases, _ := workset.Phases(trace, 2, 2)
+	results := [][]int{whole, part, sizes, phases}
+	before := fmt.Sprint(results)
+	clear(trace)
+	if after := fmt.Sprint(results); after != before {
+		t.Errorf("the results were %s, and are now %s", before, after)
+	}
+}
+
 // P3: the answers are the same in any order, after any other calls, and at the same time.
 
 func TestAnswersDependOnlyOnArguments(t *testing.T) {
@@ -993,6 +1040,17 @@ func TestManyCountsOfATraceGiveTheSameHits(t *testing.T) {
 		distance.Misses(trace)
 		if got, err := distance.Hits(trace); !slices.Equal(got, first) || err != api.OK {
 			t.Fatalf("after many counts Hits = %v, %d; want %v, OK", got, err, first)
+		}
+	}
+}
+
+func TestManyPhasesOfATraceAreTheSame(t *testing.T) {
+	trace := []int{1, 1, 2, 3, 4, 1}
+	first, _ := workset.Phases(trace, 2, 1)
+	for range 1 << 16 {
+		workset.Set(trace, 3, 3)
+		if got, err := workset.Phases(trace, 2, 1); !slices.Equal(got, first) || err != api.OK {
+			t.Fatalf("after many calls Phases = %v, %d; want %v, OK", got, err, first)
 		}
 	}
 }
