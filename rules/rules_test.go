@@ -18,6 +18,7 @@ import (
 	"slopchest/lfu"
 	"slopchest/lru"
 	"slopchest/optimal"
+	"slopchest/rate"
 	"slopchest/segment"
 	"slopchest/sketch"
 	"slopchest/table"
@@ -571,9 +572,62 @@ func worksetCalls() []call {
 	return calls
 }
 
+// buckets are buckets, some of which package rate refuses.
+func buckets() []api.Bucket {
+	return []api.Bucket{
+		{}, {Most: 1, Every: 1}, {Most: 5, Every: 10}, {Most: 5, Every: 10, Has: 5, At: 7}, {Most: 5, Every: 10, Has: 6},
+		{Most: api.MaxTokens, Every: api.MaxTokens}, {Most: api.MaxTokens, Every: 1, Has: api.MaxTokens, At: api.MaxTick},
+		{Most: 1, Every: api.MaxTokens, At: api.MaxTick}, {Most: api.MaxTokens + 1, Every: 1}, {Most: 1, Every: api.MaxTokens + 1},
+		{Most: 1, Every: 1, Has: -1}, {Most: 1, Every: 1, At: -1}, {Most: 1, Every: 1, At: api.MaxTick + 1}, {Most: 1}, {Every: 1},
+		{Most: math.MinInt, Every: math.MinInt, Has: math.MinInt, At: math.MinInt},
+		{Most: math.MaxInt, Every: math.MaxInt, Has: math.MaxInt, At: math.MaxInt},
+		{Most: 1, Every: 1, At: math.MinInt}, {Most: 1, Every: 1, Has: math.MinInt, At: math.MaxInt},
+	}
+}
+
+// rateCalls are calls of package rate with ordinary, extreme and invalid arguments.
+func rateCalls() []call {
+	var calls []call
+	ticks := []int{math.MinInt, -1, 0, 1, 7, 25, api.MaxTick, api.MaxTick + 1, math.MaxInt}
+	numbers := []int{math.MinInt, -1, 0, 1, 3, api.MaxTokens, api.MaxTokens + 1, math.MaxInt}
+	for _, at := range ticks {
+		for _, most := range numbers {
+			for _, every := range numbers {
+				calls = append(calls, call{fmt.Sprintf("rate.New(%d, %d, %d)", most, every, at), func() ([]any, api.Errno) {
+					got, err := rate.New(most, every, at)
+					return []any{got}, err
+				}})
+			}
+		}
+	}
+	for i, b := range buckets() {
+		add := func(name string, run func() ([]any, api.Errno)) {
+			calls = append(calls, call{fmt.Sprintf("rate.%s of bucket %d", name, i), run})
+		}
+		add("Check", func() ([]any, api.Errno) { return nil, rate.Check(b) })
+		for _, at := range ticks {
+			add(fmt.Sprintf("Advance to %d", at), func() ([]any, api.Errno) {
+				got, err := rate.Advance(b, at)
+				return []any{got}, err
+			})
+			for _, many := range numbers {
+				add(fmt.Sprintf("Take %d, %d", at, many), func() ([]any, api.Errno) {
+					got, taken, err := rate.Take(b, at, many)
+					return []any{got, taken}, err
+				})
+				add(fmt.Sprintf("When %d, %d", at, many), func() ([]any, api.Errno) {
+					got, err := rate.When(b, at, many)
+					return []any{got}, err
+				})
+			}
+		}
+	}
+	return calls
+}
+
 // allCalls are calls of all packages that are built.
 func allCalls() []call {
-	return slices.Concat(hashCalls(), tableCalls(), bloomCalls(), sketchCalls(), wheelCalls(), lruCalls(), clockCalls(), lfuCalls(), segmentCalls(), optimalCalls(), distanceCalls(), worksetCalls())
+	return slices.Concat(hashCalls(), tableCalls(), bloomCalls(), sketchCalls(), wheelCalls(), lruCalls(), clockCalls(), lfuCalls(), segmentCalls(), optimalCalls(), distanceCalls(), worksetCalls(), rateCalls())
 }
 
 // answer is the printed form of what a call returns.
@@ -614,7 +668,7 @@ func TestErrorsComeWithZeroValues(t *testing.T) {
 		}
 		failed++
 		for _, r := range results {
-			if !slices.Contains([]string{"0", "[]", "false", "{0 0 []}", "{0 []}", "{0 0 [] []}"}, fmt.Sprint(r)) {
+			if !slices.Contains([]string{"0", "[]", "false", "{0 0 []}", "{0 []}", "{0 0 [] []}", "{0 0 0 0}"}, fmt.Sprint(r)) {
 				t.Errorf("%s returns %v with error %d", c.name, r, err)
 			}
 		}
@@ -1052,6 +1106,22 @@ func TestManyPhasesOfATraceAreTheSame(t *testing.T) {
 		if got, err := workset.Phases(trace, 2, 1); !slices.Equal(got, first) || err != api.OK {
 			t.Fatalf("after many calls Phases = %v, %d; want %v, OK", got, err, first)
 		}
+	}
+}
+
+func TestABucketThatRunsForLongMissesNoToken(t *testing.T) {
+	// Two tokens come in each round, and seven ticks are left over, which must count: 27 tokens come in ten rounds.
+	// As three are taken as soon as they are there, the bucket is never full.
+	b, taken := api.Bucket{Most: 6, Every: 10}, 0
+	for i := range 1 << 20 {
+		var ok bool
+		if b, ok, _ = rate.Take(b, 27*(i+1), 3); ok {
+			taken += 3
+		}
+		rate.When(b, 27*(i+1), 6)
+	}
+	if most := 27 << 20 / 10; taken+b.Has != most || b.At != 10*most {
+		t.Errorf("%d tokens were taken, and the bucket is %v; want %d tokens in all", taken, b, most)
 	}
 }
 
