@@ -14,6 +14,7 @@ import (
 	"slopchest/bloom"
 	"slopchest/clock"
 	"slopchest/distance"
+	"slopchest/greedy"
 	"slopchest/hash"
 	"slopchest/lfu"
 	"slopchest/lru"
@@ -625,9 +626,60 @@ func rateCalls() []call {
 	return calls
 }
 
+// stocks are caches for items of different sizes, some of which package greedy refuses.
+func stocks() []api.Greedy {
+	full := make([]api.Item, api.MaxItems+1)
+	for i := range full {
+		full[i] = api.Item{Key: i, Size: 1, Cost: api.MaxCost, Worth: api.MaxWorth}
+	}
+	three := []api.Item{{Key: 1, Size: 2, Cost: 3, Worth: 7}, {Key: 0, Size: 4, Worth: 5}, {Key: 2, Size: 3, Cost: 1, Worth: 5}}
+	least := math.MinInt
+	return []api.Greedy{
+		{}, {Room: 1}, {Room: 1, Things: []api.Item{}}, {Room: 1, Things: make([]api.Item, 1)}, {Room: 9, Floor: 5, Things: three},
+		{Room: 10, Things: three}, {Room: 8, Things: three}, {Room: 9, Floor: 6, Things: three}, {Room: 9, Floor: -1, Things: three},
+		{Room: api.MaxSizes, Floor: api.MaxWorth}, {Room: api.MaxSizes, Floor: api.MaxWorth + 1}, {Room: api.MaxSizes + 1},
+		{Room: api.MaxItems, Floor: api.MaxWorth, Things: full[:api.MaxItems]}, {Room: api.MaxSizes, Things: full}, {Room: api.MaxSizes, Things: full[:api.MaxItems]},
+		{Room: 9, Things: []api.Item{three[0], three[0]}}, {Room: 9, Things: []api.Item{{Key: least, Size: least, Cost: least, Worth: least}}},
+		{Room: 9, Things: []api.Item{{Key: math.MaxInt, Size: math.MaxInt, Cost: math.MaxInt, Worth: math.MaxInt}}},
+		{Room: 9, Things: []api.Item{{Size: math.MaxInt}, {Key: 1, Size: 1}}}, {Room: 9, Things: []api.Item{{Size: 1, Cost: math.MaxInt}}},
+		{Room: least, Floor: least, Things: full}, {Room: math.MaxInt, Floor: math.MaxInt, Things: full},
+	}
+}
+
+// greedyCalls are calls of package greedy with ordinary, extreme and invalid arguments.
+func greedyCalls() []call {
+	var calls []call
+	numbers := []int{math.MinInt, -1, 0, 1, 3, 9, api.MaxSizes, api.MaxSizes + 1, math.MaxInt}
+	for i, h := range stocks() {
+		add := func(name string, run func() ([]any, api.Errno)) {
+			calls = append(calls, call{fmt.Sprintf("greedy.%s of cache %d", name, i), run})
+		}
+		add("Check", func() ([]any, api.Errno) { return nil, greedy.Check(h) })
+		for _, key := range numbers {
+			for _, size := range numbers {
+				for _, n := range numbers {
+					add(fmt.Sprintf("Access of %d, size %d, cost and worth %d", key, size, n), func() ([]any, api.Errno) {
+						got, hit, evicted, err := greedy.Access(h, api.Item{Key: key, Size: size, Cost: n, Worth: n})
+						return []any{got, hit, evicted}, err
+					})
+				}
+			}
+		}
+		add("Total", func() ([]any, api.Errno) {
+			size, cost, err := greedy.Total(h)
+			return []any{size, cost}, err
+		})
+		add("Victim", func() ([]any, api.Errno) {
+			got, err := greedy.Victim(h)
+			return []any{got}, err
+		})
+	}
+	return calls
+}
+
 // allCalls are calls of all packages that are built.
 func allCalls() []call {
-	return slices.Concat(hashCalls(), tableCalls(), bloomCalls(), sketchCalls(), wheelCalls(), lruCalls(), clockCalls(), lfuCalls(), segmentCalls(), optimalCalls(), distanceCalls(), worksetCalls(), rateCalls())
+	return slices.Concat(hashCalls(), tableCalls(), bloomCalls(), sketchCalls(), wheelCalls(), lruCalls(), clockCalls(), lfuCalls(), segmentCalls(), optimalCalls(), distanceCalls(), worksetCalls(), rateCalls(), greedyCalls())
 }
 
 // answer is the printed form of what a call returns.
@@ -898,6 +950,20 @@ func TestWorkingSetsShareNoMemoryWithTheTrace(t *testing.T) {
 	}
 }
 
+func TestCachesOfItemsShareNoMemoryWithArguments(t *testing.T) {
+	h := api.Greedy{Room: 9, Things: []api.Item{{Key: 1, Size: 2, Cost: 3, Worth: 7}, {Key: 2, Size: 4, Worth: 5}, {Key: 3, Size: 3, Cost: 1, Worth: 6}}}
+	again, _, _, _ := greedy.Access(h, api.Item{Key: 1, Size: 1})
+	one, _, oneGone, _ := greedy.Access(h, api.Item{Key: 4, Size: 3})
+	all, _, allGone, _ := greedy.Access(h, api.Item{Key: 4, Size: 9})
+	same, _, _, _ := greedy.Access(h, api.Item{Key: 4, Size: 10})
+	results := []any{again, one, oneGone, all, allGone, same}
+	before := fmt.Sprint(results)
+	clear(h.Things)
+	if after := fmt.Sprint(results); after != before {
+		t.Errorf("the results were %s, and are now %s", before, after)
+	}
+}
+
 // P3: the answers are the same in any order, after any other calls, and at the same time.
 
 func TestAnswersDependOnlyOnArguments(t *testing.T) {
@@ -1122,6 +1188,23 @@ func TestABucketThatRunsForLongMissesNoToken(t *testing.T) {
 	}
 	if most := 27 << 20 / 10; taken+b.Has != most || b.At != 10*most {
 		t.Errorf("%d tokens were taken, and the bucket is %v; want %d tokens in all", taken, b, most)
+	}
+}
+
+func TestAFloorThatRisesForLongStaysALowerBound(t *testing.T) {
+	// Each round evicts the item of the round before last, so that the floor rises by 512 in each two rounds.
+	h := api.Greedy{Room: 5}
+	const rounds = 1 << 18
+	for i := range rounds {
+		var err api.Errno
+		if h, _, _, err = greedy.Access(h, api.Item{Key: i, Size: 2, Cost: 1}); err != api.OK {
+			t.Fatalf("Access: error %d in round %d", err, i)
+		}
+	}
+	want := api.Greedy{Room: 5, Floor: 512 * (rounds/2 - 1), Things: []api.Item{
+		{Key: rounds - 2, Size: 2, Cost: 1, Worth: 512 * rounds / 2}, {Key: rounds - 1, Size: 2, Cost: 1, Worth: 512 * rounds / 2}}}
+	if got := fmt.Sprint(h); got != fmt.Sprint(want) {
+		t.Errorf("after many rounds the cache is %s, want %v", got, want)
 	}
 }
 
