@@ -21,6 +21,7 @@ import (
 	"slopchest/optimal"
 	"slopchest/rate"
 	"slopchest/segment"
+	"slopchest/shard"
 	"slopchest/sketch"
 	"slopchest/table"
 	"slopchest/wheel"
@@ -677,9 +678,62 @@ func greedyCalls() []call {
 	return calls
 }
 
+// weighed are lists of shards, some of which package shard refuses.
+func weighed() [][]api.Shard {
+	full := make([]api.Shard, api.MaxShards+1)
+	for i := range full {
+		full[i] = api.Shard{Name: fmt.Sprint("s", i), Weight: api.MaxWeight}
+	}
+	long := strings.Repeat("n", api.MaxText+1)
+	return [][]api.Shard{
+		nil, {}, {{Name: "A", Weight: 1}, {Name: "B", Weight: 2}, {Name: "C", Weight: 3}}, {{Weight: 1}}, {{Name: long[1:], Weight: 8}}, {{Name: long, Weight: 1}},
+		full[:1], full[:api.MaxShards], full, make([]api.Shard, 1), make([]api.Shard, api.MaxShards+1), {full[0], full[0]}, {{Name: "\xff\x00", Weight: 1}},
+		{{Name: "A", Weight: math.MinInt}}, {{Name: "A", Weight: math.MaxInt}}, {full[0], {Name: "A", Weight: api.MaxWeight + 1}}, {full[0], {Name: strings.Repeat("\xff", 1<<20), Weight: 1}},
+	}
+}
+
+// shardCalls are calls of package shard with ordinary, extreme and invalid arguments.
+func shardCalls() []call {
+	var calls []call
+	texts := []string{"", "a", "\xff\x00", strings.Repeat("k", api.MaxText), strings.Repeat("k", api.MaxText+1), strings.Repeat("\xff", 1<<20)}
+	for i, l := range weighed() {
+		add := func(name string, run func() ([]any, api.Errno)) {
+			calls = append(calls, call{fmt.Sprintf("shard.%s of list %d", name, i), run})
+		}
+		add("Check", func() ([]any, api.Errno) { return nil, shard.Check(l) })
+		for _, key := range texts {
+			if len(l) > 0 {
+				add(fmt.Sprintf("Score for %d bytes, last shard", len(key)), func() ([]any, api.Errno) {
+					got, err := shard.Score(l[len(l)-1], key)
+					return []any{got}, err
+				})
+			}
+			add(fmt.Sprintf("Owner for %d bytes", len(key)), func() ([]any, api.Errno) {
+				got, err := shard.Owner(l, key)
+				return []any{got}, err
+			})
+			for _, many := range []int{math.MinInt, -1, 0, 1, len(l), len(l) + 1, api.MaxShards, math.MaxInt} {
+				add(fmt.Sprintf("Owners for %d bytes, %d", len(key), many), func() ([]any, api.Errno) {
+					got, err := shard.Owners(l, key, many)
+					return []any{got}, err
+				})
+			}
+		}
+		for j, m := range weighed() {
+			for k, keys := range [][]string{nil, {}, texts[:4], texts, texts[4:], make([]string, api.MaxTrace), make([]string, api.MaxTrace+1)} {
+				add(fmt.Sprintf("Moved to list %d with keys %d", j, k), func() ([]any, api.Errno) {
+					got, err := shard.Moved(l, m, keys)
+					return []any{got}, err
+				})
+			}
+		}
+	}
+	return calls
+}
+
 // allCalls are calls of all packages that are built.
 func allCalls() []call {
-	return slices.Concat(hashCalls(), tableCalls(), bloomCalls(), sketchCalls(), wheelCalls(), lruCalls(), clockCalls(), lfuCalls(), segmentCalls(), optimalCalls(), distanceCalls(), worksetCalls(), rateCalls(), greedyCalls())
+	return slices.Concat(hashCalls(), tableCalls(), bloomCalls(), sketchCalls(), wheelCalls(), lruCalls(), clockCalls(), lfuCalls(), segmentCalls(), optimalCalls(), distanceCalls(), worksetCalls(), rateCalls(), greedyCalls(), shardCalls())
 }
 
 // answer is the printed form of what a call returns.
@@ -964,6 +1018,34 @@ func TestCachesOfItemsShareNoMemoryWithArguments(t *testing.T) {
 	}
 }
 
+func TestShardsAndKeysAreNeitherModifiedNorRetained(t *testing.T) {
+	name, nameBytes := changeable("first name, and more")
+	key, keyBytes := changeable("first key, and more")
+	l := []api.Shard{{Name: name[:10], Weight: 8}, {Name: "A", Weight: 8}, {Name: "B", Weight: 8}}
+	keys := []string{key[:9], "x", "y"}
+	results := func() string {
+		score, scoreErr := shard.Score(l[0], keys[0])
+		owners, ownersErr := shard.Owners(l, keys[0], 3)
+		moved, movedErr := shard.Moved(l, l[1:], keys)
+		return fmt.Sprint(score, owners, moved, scoreErr, ownersErr, movedErr)
+	}
+	first := results()
+	if string(nameBytes) != "first name, and more" || string(keyBytes) != "first key, and more" {
+		t.Errorf("the name is now %q, the key %q", nameBytes, keyBytes)
+	}
+	copy(nameBytes, "other name")
+	copy(keyBytes, "other key")
+	other := results()
+	l[0].Name, keys[0] = "other name", "other key"
+	if again := results(); again != other {
+		t.Errorf("the results are %s, and in the memory of others %s", again, other)
+	}
+	l[0].Name, keys[0] = "first name", "first key"
+	if again := results(); again != first {
+		t.Errorf("the results were %s, and are now %s", first, again)
+	}
+}
+
 // P3: the answers are the same in any order, after any other calls, and at the same time.
 
 func TestAnswersDependOnlyOnArguments(t *testing.T) {
@@ -1205,6 +1287,22 @@ func TestAFloorThatRisesForLongStaysALowerBound(t *testing.T) {
 		{Key: rounds - 2, Size: 2, Cost: 1, Worth: 512 * rounds / 2}, {Key: rounds - 1, Size: 2, Cost: 1, Worth: 512 * rounds / 2}}}
 	if got := fmt.Sprint(h); got != fmt.Sprint(want) {
 		t.Errorf("after many rounds the cache is %s, want %v", got, want)
+	}
+}
+
+func TestManyKeysHaveTheSameOwners(t *testing.T) {
+	l := []api.Shard{{Name: "A", Weight: 1}, {Name: "B", Weight: 2}, {Name: "C", Weight: 3}}
+	keys := []string{"v", "w", "x", "y", "z"}
+	first, _ := shard.Owners(l, "x", 3)
+	firstMoved, _ := shard.Moved(l, l[1:], keys)
+	for i := range 1 << 16 {
+		shard.Owner(l, fmt.Sprint("key ", i))
+		if got, err := shard.Owners(l, "x", 3); !slices.Equal(got, first) || err != api.OK {
+			t.Fatalf("after many keys Owners = %v, %d; want %v, OK", got, err, first)
+		}
+	}
+	if got, err := shard.Moved(l, l[1:], keys); !slices.Equal(got, firstMoved) || err != api.OK {
+		t.Errorf("after many keys Moved = %v, %d; want %v, OK", got, err, firstMoved)
 	}
 }
 
