@@ -20,6 +20,7 @@ import (
 	"slopchest/lru"
 	"slopchest/optimal"
 	"slopchest/rate"
+	"slopchest/ring"
 	"slopchest/segment"
 	"slopchest/shard"
 	"slopchest/sketch"
@@ -731,9 +732,62 @@ func shardCalls() []call {
 	return calls
 }
 
+// circles are lists of points, some of which package ring refuses.
+func circles() [][]api.Point {
+	full := make([]api.Point, api.MaxPoints+1)
+	for i := range full {
+		full[i] = api.Point{At: 1000 * i, Shard: i % api.MaxShards}
+	}
+	return [][]api.Point{
+		nil, {}, full[:1], full[1:4], full[:api.MaxPoints], full, make([]api.Point, 2), make([]api.Point, 1<<16),
+		{{At: 10, Shard: 1}, {At: 20, Shard: 2}}, {{}, {At: api.MaxPlace - 1, Shard: api.MaxShards - 1}}, {{At: 2}, {At: 1}},
+		{{At: api.MaxPlace}}, {{Shard: api.MaxShards}}, {{At: -1, Shard: -1}}, {{At: math.MinInt, Shard: math.MinInt}},
+		{{At: math.MaxInt, Shard: math.MaxInt}}, {{At: math.MaxInt}, {At: math.MinInt}}, {{At: 5}, {At: 6, Shard: math.MaxInt}},
+	}
+}
+
+// ringCalls are calls of package ring with ordinary, extreme and invalid arguments.
+func ringCalls() []call {
+	var calls []call
+	numbers := []int{math.MinInt, -1, 0, 1, 2, api.MaxShards - 1, api.MaxShards, api.MaxShards + 1, api.MaxPlace - 1, api.MaxPlace, math.MaxInt}
+	places := [][]int{nil, {}, {15}, {api.MaxPlace - 2, 3}, {10}, {3, 3}, {3, -1}, {api.MaxPlace}, {math.MinInt, math.MaxInt}, make([]int, 1<<16)}
+	many := make([]int, api.MaxPoints+1)
+	for i := range many {
+		many[i] = 1000*i + 7
+	}
+	places = append(places, many, many[1:], many[:api.MaxPoints-2])
+	for i, l := range circles() {
+		add := func(name string, run func() ([]any, api.Errno)) {
+			calls = append(calls, call{fmt.Sprintf("ring.%s of list %d", name, i), run})
+		}
+		add("Check", func() ([]any, api.Errno) { return nil, ring.Check(l) })
+		for _, n := range numbers {
+			add(fmt.Sprintf("Owner %d", n), func() ([]any, api.Errno) {
+				got, err := ring.Owner(l, n)
+				return []any{got}, err
+			})
+			add(fmt.Sprintf("Shares %d", n), func() ([]any, api.Errno) {
+				got, err := ring.Shares(l, n)
+				return []any{got}, err
+			})
+			add(fmt.Sprintf("Remove %d", n), func() ([]any, api.Errno) {
+				got, err := ring.Remove(l, n)
+				return []any{got}, err
+			})
+			for j, at := range places {
+				add(fmt.Sprintf("Add %d at places %d", n, j), func() ([]any, api.Errno) {
+					got, err := ring.Add(l, n, at)
+					return []any{got}, err
+				})
+			}
+		}
+	}
+	return calls
+}
+
 // allCalls are calls of all packages that are built.
 func allCalls() []call {
-	return slices.Concat(hashCalls(), tableCalls(), bloomCalls(), sketchCalls(), wheelCalls(), lruCalls(), clockCalls(), lfuCalls(), segmentCalls(), optimalCalls(), distanceCalls(), worksetCalls(), rateCalls(), greedyCalls(), shardCalls())
+	return slices.Concat(hashCalls(), tableCalls(), bloomCalls(), sketchCalls(), wheelCalls(), lruCalls(), clockCalls(), lfuCalls(), segmentCalls(), optimalCalls(), distanceCalls(), worksetCalls(), rateCalls(), greedyCalls(), shardCalls(), ringCalls())
 }
 
 // answer is the printed form of what a call returns.
@@ -1046,6 +1100,25 @@ func TestShardsAndKeysAreNeitherModifiedNorRetained(t *testing.T) {
 	}
 }
 
+func TestPointsShareNoMemoryWithArguments(t *testing.T) {
+	l := []api.Point{{At: 10, Shard: 1}, {At: 20, Shard: 2}, {At: 30, Shard: 2}}
+	places := []int{25, 5}
+	inserted, _ := ring.Add(l, 3, places)
+	appended, _ := ring.Add(l[:1], 3, places[:1])
+	same, _ := ring.Add(l, 3, nil)
+	first, _ := ring.Add(nil, 3, places)
+	begin, _ := ring.Remove(l, 2)
+	end, _ := ring.Remove(l, 1)
+	shares, _ := ring.Shares(l, 3)
+	results := []any{inserted, appended, same, first, begin, end, shares}
+	before := fmt.Sprint(results)
+	clear(l)
+	clear(places)
+	if after := fmt.Sprint(results); after != before {
+		t.Errorf("the results were %s, and are now %s", before, after)
+	}
+}
+
 // P3: the answers are the same in any order, after any other calls, and at the same time.
 
 func TestAnswersDependOnlyOnArguments(t *testing.T) {
@@ -1303,6 +1376,19 @@ func TestManyKeysHaveTheSameOwners(t *testing.T) {
 	}
 	if got, err := shard.Moved(l, l[1:], keys); !slices.Equal(got, firstMoved) || err != api.OK {
 		t.Errorf("after many keys Moved = %v, %d; want %v, OK", got, err, firstMoved)
+	}
+}
+
+func TestManyChangesOfARingGiveTheSamePoints(t *testing.T) {
+	first := []api.Point{{At: 10, Shard: 1}, {At: 20, Shard: 2}, {At: 40000, Shard: 1}}
+	l := first
+	for i := range 1 << 17 {
+		var added, removed api.Errno
+		l, added = ring.Add(l, 3, []int{(i+30000)%39000 + 30, 5, 15})
+		l, removed = ring.Remove(l, 3)
+		if !slices.Equal(l, first) || added != api.OK || removed != api.OK {
+			t.Fatalf("in round %d the points are %v, errors %d and %d; want %v", i, l, added, removed, first)
+		}
 	}
 }
 
