@@ -14,6 +14,7 @@ import (
 	"slopchest/bloom"
 	"slopchest/clock"
 	"slopchest/distance"
+	"slopchest/expire"
 	"slopchest/greedy"
 	"slopchest/hash"
 	"slopchest/lfu"
@@ -785,9 +786,63 @@ func ringCalls() []call {
 	return calls
 }
 
+// lasting are stores with times, some of which package expire refuses.
+func lasting() []api.Store {
+	full := make([]api.Entry, api.MaxEntries+1)
+	for i := range full {
+		full[i] = api.Entry{Key: 2 * i, Value: -i, Until: 10 + i}
+	}
+	least := math.MinInt
+	return []api.Store{
+		{}, {Life: 1}, {Life: api.MaxLife, Entries: []api.Entry{}}, {Life: api.MaxLife + 1}, {Life: 10, Entries: full[:3]}, {Life: 1, Entries: full[:api.MaxEntries]},
+		{Life: 1, Entries: full}, {Life: 1, Entries: make([]api.Entry, 1)}, {Life: 1, Entries: make([]api.Entry, 2)}, {Life: 1, Entries: make([]api.Entry, 1<<16)},
+		{Life: api.MaxLife, Entries: []api.Entry{{Key: api.MaxKey, Value: api.MaxValue, Until: api.MaxTick + api.MaxLife}}}, {Life: 1, Entries: []api.Entry{{Until: api.MaxTick + api.MaxLife + 1}}},
+		{Life: 1, Entries: []api.Entry{{Value: -api.MaxValue}}}, {Life: 1, Entries: []api.Entry{{Value: -api.MaxValue - 1}}}, {Life: 1, Entries: []api.Entry{{Key: 2}, {Key: 1}}},
+		{Life: 1, Entries: []api.Entry{{Key: least, Value: least, Until: least}}}, {Life: 1, Entries: []api.Entry{{Key: math.MaxInt, Value: math.MaxInt, Until: math.MaxInt}}},
+		{Life: 1, Entries: []api.Entry{{Until: math.MaxInt}}}, {Life: least, Entries: full}, {Life: math.MaxInt, Entries: full[:3]},
+	}
+}
+
+// expireCalls are calls of package expire with ordinary, extreme and invalid arguments.
+func expireCalls() []call {
+	var calls []call
+	ticks := []int{math.MinInt, -1, 0, 10, 11, 60, api.MaxTick, api.MaxTick + 1, math.MaxInt}
+	keys := []int{math.MinInt, -1, 0, 1, 4, api.MaxKey, api.MaxKey + 1, math.MaxInt}
+	values := []int{math.MinInt, -api.MaxValue - 1, -api.MaxValue, 0, api.MaxValue, api.MaxValue + 1, math.MaxInt}
+	for i, l := range lasting() {
+		add := func(name string, run func() ([]any, api.Errno)) {
+			calls = append(calls, call{fmt.Sprintf("expire.%s of store %d", name, i), run})
+		}
+		add("Check", func() ([]any, api.Errno) { return nil, expire.Check(l) })
+		add("Next", func() ([]any, api.Errno) {
+			got, err := expire.Next(l)
+			return []any{got}, err
+		})
+		for _, now := range ticks {
+			add(fmt.Sprintf("Sweep at %d", now), func() ([]any, api.Errno) {
+				got, expired, err := expire.Sweep(l, now)
+				return []any{got, expired}, err
+			})
+			for _, key := range keys {
+				add(fmt.Sprintf("Get of %d at %d", key, now), func() ([]any, api.Errno) {
+					got, found, err := expire.Get(l, key, now)
+					return []any{got, found}, err
+				})
+				for _, value := range values {
+					add(fmt.Sprintf("Put of %d, %d at %d", key, value, now), func() ([]any, api.Errno) {
+						got, err := expire.Put(l, key, value, now)
+						return []any{got}, err
+					})
+				}
+			}
+		}
+	}
+	return calls
+}
+
 // allCalls are calls of all packages that are built.
 func allCalls() []call {
-	return slices.Concat(hashCalls(), tableCalls(), bloomCalls(), sketchCalls(), wheelCalls(), lruCalls(), clockCalls(), lfuCalls(), segmentCalls(), optimalCalls(), distanceCalls(), worksetCalls(), rateCalls(), greedyCalls(), shardCalls(), ringCalls())
+	return slices.Concat(hashCalls(), tableCalls(), bloomCalls(), sketchCalls(), wheelCalls(), lruCalls(), clockCalls(), lfuCalls(), segmentCalls(), optimalCalls(), distanceCalls(), worksetCalls(), rateCalls(), greedyCalls(), shardCalls(), ringCalls(), expireCalls())
 }
 
 // answer is the printed form of what a call returns.
@@ -1119,6 +1174,23 @@ func TestPointsShareNoMemoryWithArguments(t *testing.T) {
 	}
 }
 
+func TestStoresShareNoMemoryWithArguments(t *testing.T) {
+	l := api.Store{Life: 10, Entries: []api.Entry{{Key: 3, Value: 1, Until: 30}, {Key: 5, Value: 2, Until: 20}, {Key: 8, Value: 3, Until: 40}}}
+	first, _ := expire.Put(l, 1, 4, 0)
+	last, _ := expire.Put(l, 9, 4, 0)
+	replaced, _ := expire.Put(l, 5, 4, 0)
+	swept, _ := expire.Put(l, 5, 4, 30)
+	same, none, _ := expire.Sweep(l, 0)
+	some, one, _ := expire.Sweep(l, 20)
+	empty, all, _ := expire.Sweep(l, 40)
+	results := []any{first, last, replaced, swept, same, none, some, one, empty, all}
+	before := fmt.Sprint(results)
+	clear(l.Entries)
+	if after := fmt.Sprint(results); after != before {
+		t.Errorf("the results were %s, and are now %s", before, after)
+	}
+}
+
 // P3: the answers are the same in any order, after any other calls, and at the same time.
 
 func TestAnswersDependOnlyOnArguments(t *testing.T) {
@@ -1389,6 +1461,27 @@ func TestManyChangesOfARingGiveTheSamePoints(t *testing.T) {
 		if !slices.Equal(l, first) || added != api.OK || removed != api.OK {
 			t.Fatalf("in round %d the points are %v, errors %d and %d; want %v", i, l, added, removed, first)
 		}
+	}
+}
+
+func TestAStoreThatIsUsedForLongHasTheLastEntries(t *testing.T) {
+	// An entry comes in each tick and stays for four, so that the last four of the seven keys are there.
+	l := api.Store{Life: 4}
+	const rounds = 1 << 18
+	for i := range rounds {
+		var err api.Errno
+		if l, err = expire.Put(l, i%7, i, i); err != api.OK {
+			t.Fatalf("Put: error %d in round %d", err, i)
+		}
+		before, found, _ := expire.Get(l, (i+4)%7, i)
+		_, again, _ := expire.Get(l, (i+3)%7, i)
+		if wantFound := i >= 3; found != wantFound || found && before != i-3 || again {
+			t.Fatalf("in round %d the store is %v; Get of %d = %d, %t, and of %d %t", i, l, (i+4)%7, before, found, (i+3)%7, again)
+		}
+	}
+	rest, expired, err := expire.Sweep(l, rounds+3)
+	if next, _ := expire.Next(l); len(rest.Entries) != 0 || len(expired) != 4 || next != rounds || err != api.OK {
+		t.Errorf("after many rounds the store is %v, of which %v expire, the first at %d, error %d", l, expired, next, err)
 	}
 }
 
